@@ -134,6 +134,26 @@ func TestPartsOfZeroAddNothing(t *testing.T) {
 	b.wantDead(0)
 }
 
+// P6.2: what counts is what Flushes find: a count that goes from one core's part to another's between them, within
+// these epochs, is found by none, so the object is told dead though its Total is not 0.
+func TestACountThatNoFlushFinds(t *testing.T) {
+	b := makeBook(t, 2, 1, 0, 0)
+	b.inc(0, 0)
+	b.turn()
+	b.flush(0)
+	b.inc(0, 0)
+	b.dec(1, 0)
+	b.flush(1)
+	b.wantCounts(0, 0, 1)
+	b.wantDead()
+	b.flush(1)
+	b.inc(1, 0)
+	b.dec(0, 0)
+	b.flush(0)
+	b.wantCounts(0, 0, 1)
+	b.wantDead(0)
+}
+
 // P6.2: a count that stays below 0 is not 0.
 func TestBelowZeroIsNotDead(t *testing.T) {
 	b := makeBook(t, 2, 2, 0, 0)
