@@ -1,10 +1,7 @@
-package layout
+package image
 
 import (
-	"slices"
-
 	"concourse/api"
-	"concourse/model"
 )
 
 // A number's parts: each but the last has more beside its bits.
@@ -53,7 +50,7 @@ func writeList[T any](w *writer, all []T, write func(one T)) {
 func (w *writer) state(s api.State) {
 	w.bytes(head)
 	writeList(w, s.Made, w.number)
-	writeList(w, lasting(s), w.inode)
+	writeList(w, s.Inodes, w.inode)
 }
 
 func (w *writer) inode(x api.Inode) {
@@ -70,10 +67,4 @@ func (w *writer) inode(x api.Inode) {
 func (w *writer) entry(e api.Entry) {
 	w.text(e.Name)
 	w.number(e.Num)
-}
-
-// lasting gives the inodes of a state that may be, without those that are open alone.
-func lasting(s api.State) []api.Inode {
-	isOpenAlone := func(x api.Inode) bool { return !x.Dir && model.Links(s, x.Num) == 0 }
-	return slices.DeleteFunc(slices.Clone(s.Inodes), isOpenAlone)
 }

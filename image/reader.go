@@ -1,4 +1,4 @@
-package layout
+package image
 
 import (
 	"strings"
@@ -82,13 +82,13 @@ func readList[T any](r *reader, limit uint64, read func() T) []T {
 	return all
 }
 
-// image is a state that is read, field by field.
-type image struct {
+// state is a state that is read, field by field.
+type state struct {
 	reader
 	api.State
 }
 
-func (x *image) read() {
+func (x *state) read() {
 	if x.bytes(len(head)) != head {
 		x.fail()
 	}
@@ -97,11 +97,11 @@ func (x *image) read() {
 }
 
 // num reads a number with no limit of its own.
-func (x *image) num() int {
+func (x *state) num() int {
 	return x.number(maxNumber)
 }
 
-func (x *image) inode() api.Inode {
+func (x *state) inode() api.Inode {
 	num := x.num()
 	if x.number(kindDirectory) == kindDirectory {
 		return api.Inode{Num: num, Dir: true, Entries: readList(&x.reader, maxEntries, x.entry)}
@@ -109,7 +109,7 @@ func (x *image) inode() api.Inode {
 	return api.Inode{Num: num, Data: x.text(api.MaxFile)}
 }
 
-func (x *image) entry() api.Entry {
+func (x *state) entry() api.Entry {
 	name := x.text(api.MaxName)
 	return api.Entry{Name: name, Num: x.num()}
 }
